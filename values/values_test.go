@@ -247,8 +247,24 @@ func TestLen(t *testing.T) { // P4.2, P4
 	}
 }
 
+func TestLenOfKindsThatAreNone(t *testing.T) { // P4.2, P4
+	for _, kind := range noKinds() {
+		for _, s := range []string{"", "a", "<b>", "é\x00", strings.Repeat("x", api.MaxValue+1)} {
+			want, wantErr := len(s), api.OK
+			if kind < 0 {
+				want, wantErr = 0, api.ErrType
+			}
+			for _, v := range []api.Value{says(kind, s), {Kind: kind, Int: 7, Text: s, List: make([]api.Value, 3), Keys: []string{"a", "b"}}} {
+				if got, err := Len(v); got != want || err != wantErr {
+					t.Errorf("P4.2: Len of Kind %d of %d octets is %d, %d, not %d, %d", kind, len(s), got, err, want, wantErr)
+				}
+			}
+		}
+	}
+}
+
 func TestLenOfWhatHasNone(t *testing.T) { // P4.2, P4
-	for _, kind := range append(noKinds(), 0, 1, 2, 3) {
+	for _, kind := range []int{-1, -7, math.MinInt, 0, 1, 2, 3} {
 		for _, v := range []api.Value{kindOf(kind), says(kind, "abc"), {Kind: kind, Int: 7, List: make([]api.Value, 3), Keys: []string{"a", "b", "c"}}} {
 			if got, err := Len(v); got != 0 || err != api.ErrType {
 				t.Errorf("P4.2: Len of %+v is %d, %d", v, got, err)
