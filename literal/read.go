@@ -4,6 +4,7 @@ import (
 	"strings"
 
 	"muslin/api"
+	"muslin/faults"
 	"muslin/number"
 	"muslin/octets"
 	"muslin/utf"
@@ -12,11 +13,6 @@ import (
 
 // inNumbers are the octets that Literal tells numbers by.
 const inNumbers = " -0123456789"
-
-// fault is what a reader panics with where it can't go on.
-type fault struct {
-	err api.Errno
-}
 
 // reader reads one literal: rest is what is not read yet, open the lists and records that have begun and not ended, the outermost first.
 type reader struct {
@@ -27,38 +23,18 @@ type reader struct {
 
 // Read answers the value whose literal s is, and how many octets s has. That value need not be one that may be: Literal tells any.
 func Read(s string) (api.Value, int, api.Errno) {
-	v, err := caught(func() api.Value { return readWhole(s) })
+	v, err := faults.Caught(func() api.Value { return readWhole(s) })
 	if err != api.OK {
 		return api.Value{}, 0, err
 	}
 	return v, len(s), api.OK
 }
 
-// caught answers what read answers, or the fault that it panics with.
-func caught(read func() api.Value) (v api.Value, err api.Errno) {
-	defer func() {
-		panicked := recover()
-		if f, ok := panicked.(fault); ok {
-			v, err = api.Value{}, f.err
-		} else if panicked != nil { // no fault of the text: an answer would be made up
-			panic(panicked)
-		}
-	}()
-	return read(), api.OK
-}
-
-// demand panics with the fault err, unless ok.
-func demand(ok bool, err api.Errno) {
-	if !ok {
-		panic(fault{err})
-	}
-}
-
 func readWhole(s string) api.Value {
 	r := reader{rest: s}
 	v := r.value()
-	demand(r.rest == "", api.ErrSyntax)
-	demand(r.deepest <= api.MaxNest, api.ErrDepth) // asked last: a text that is no literal is a fault of syntax, however deep it goes
+	faults.Demand(r.rest == "", api.ErrSyntax)
+	faults.Demand(r.deepest <= api.MaxNest, api.ErrDepth) // asked last: a text that is no literal is a fault of syntax, however deep it goes
 	return v
 }
 
@@ -133,9 +109,9 @@ func (r *reader) textOrKey() (api.Value, bool) {
 
 // putKey lays a key into the innermost record, where each value so far has one: behind a value without a key Literal tells none.
 func (r *reader) putKey(key string) {
-	demand(len(r.open) > 0, api.ErrSyntax)
+	faults.Demand(len(r.open) > 0, api.ErrSyntax)
 	into := r.innermost()
-	demand(into.Kind == record && len(into.Keys) == len(into.List), api.ErrSyntax)
+	faults.Demand(into.Kind == record && len(into.Keys) == len(into.List), api.ErrSyntax)
 	into.Keys = append(into.Keys, key)
 }
 
@@ -154,7 +130,7 @@ func ending(kind int) string {
 func (r *reader) number() api.Value {
 	told := r.rest[:len(r.rest)-len(strings.TrimLeft(r.rest, inNumbers))]
 	n, err := number.Parse(strings.TrimPrefix(told, blank))
-	demand(err == api.OK, api.ErrSyntax)
+	faults.Demand(err == api.OK, api.ErrSyntax)
 	v := values.Int(n)
 	r.must(Literal(v)) // a blank may be there that is not due, or the other way round
 	return v
@@ -169,7 +145,7 @@ func (r *reader) text() string {
 			put(r.char())
 		}
 	})
-	demand(Quote(said) == begun[:len(begun)-len(r.rest)], api.ErrSyntax)
+	faults.Demand(Quote(said) == begun[:len(begun)-len(r.rest)], api.ErrSyntax)
 	return said
 }
 
@@ -183,20 +159,20 @@ func (r *reader) char() string {
 		c = firstPaired + (c-firstHigh)<<halfBits + r.unit() - firstLow
 	}
 	s, err := utf.Encode(c)
-	demand(err == api.OK, api.ErrSyntax)
+	faults.Demand(err == api.OK, api.ErrSyntax)
 	return s
 }
 
 func (r *reader) unit() int {
 	r.must(unitMark)
 	n, err := octets.Unhex(r.take(unitDigits))
-	demand(err == api.OK, api.ErrSyntax)
+	faults.Demand(err == api.OK, api.ErrSyntax)
 	return n
 }
 
 // take reads count octets.
 func (r *reader) take(count int) string {
-	demand(count <= len(r.rest), api.ErrSyntax)
+	faults.Demand(count <= len(r.rest), api.ErrSyntax)
 	taken := r.rest[:count]
 	r.rest = r.rest[count:]
 	return taken
@@ -211,5 +187,5 @@ func (r *reader) takes(sign string) bool {
 
 // must reads sign, which has to stand here.
 func (r *reader) must(sign string) {
-	demand(r.takes(sign), api.ErrSyntax)
+	faults.Demand(r.takes(sign), api.ErrSyntax)
 }
