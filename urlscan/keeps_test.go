@@ -1,0 +1,145 @@
+package urlscan
+
+import (
+	"fmt"
+	"strings"
+	"sync"
+	"testing"
+)
+
+// wordsOf are the words that the calls answer of part, word and s.
+func wordsOf(part int, word string, s string) []string {
+	_, fedOne := Feed(part, word, s)
+	_, fedNone := Feed(part, word, "")
+	_, put := Step(part, word, 'x')
+	_, stays := Step(part, word, ' ')
+	return []string{fedOne, fedNone, put, stays}
+}
+
+func TestAnswersAreNewMemory(t *testing.T) { // P14.3, P2
+	for _, w := range append(oddWords(), "a", "") {
+		for _, s := range []string{"", "a", "A", "http", "é", long16, long16 + "A"} {
+			for part := range 7 {
+				_, word := fresh(w)
+				_, text := fresh(s)
+				all := append(wordsOf(part, word, text), wordsOf(part, word, text)...)
+				for i, a := range all {
+					if shares(a, word) || shares(a, text) {
+						t.Errorf("P14.3: an answer of %d, %.40q, %.40q shares its memory: %.40q", part, w, s, a)
+					}
+					for _, b := range all[:i] {
+						if shares(a, b) {
+							t.Errorf("P14.3: two answers of %d, %.40q, %.40q share memory: %.40q", part, w, s, a)
+						}
+					}
+				}
+			}
+		}
+	}
+}
+
+func TestWordsOfOneOctetAreNewMemory(t *testing.T) { // P14.3, P2
+	for i := range 256 {
+		octet := string([]byte{byte(i)})
+		_, a := Step(0, "", byte(i))
+		_, b := Step(1, "", byte(i))
+		_, c := Feed(0, "", octet)
+		_, d := Feed(1, octet, "")
+		all := []string{a, b, c, d, octet}
+		for j, x := range all {
+			for _, y := range all[:j] {
+				if shares(x, y) {
+					t.Errorf("P14.3: words of %q share memory", octet)
+				}
+			}
+		}
+	}
+}
+
+func TestArgumentsAreNotChangedAndNotKept(t *testing.T) { // P14.3, P2
+	for _, w := range oddWords() {
+		for _, s := range []string{"", "a", "A", "http:", "é/", long16, long16 + "A"} {
+			for part := range 7 {
+				wordOctets, word := fresh(w)
+				textOctets, text := fresh(s)
+				before := wordsOf(part, word, text)
+				if string(wordOctets) != w || string(textOctets) != s {
+					t.Errorf("P14.3: %.40q or %.40q was changed", w, s)
+				}
+				for i := range wordOctets {
+					wordOctets[i] = ':'
+				}
+				for i := range textOctets {
+					textOctets[i] = '/'
+				}
+				for i, want := range wordsOf(part, w, s) {
+					if before[i] != want {
+						t.Errorf("P14.3: an answer of %d, %.40q, %.40q changes with what was handed in", part, w, s)
+					}
+				}
+			}
+		}
+	}
+}
+
+func TestEveryCallAnswers(t *testing.T) { // P1
+	for _, part := range oddParts() {
+		if got, kind := Hole(part); kind < 0 || kind > 3 || kind == 0 && got != part {
+			t.Errorf("P1: Hole(%d) is %d, %d", part, got, kind)
+		}
+		for _, word := range oddWords() {
+			for _, c := range []byte(every()) {
+				got, gotWord := Step(part, word, c)
+				if got < 1 || got > 5 || got != 1 && gotWord != "" || len(gotWord) > max(16, len(word)) {
+					t.Errorf("P1: Step(%d, %.40q, %q) is %d, %.40q", part, word, c, got, gotWord)
+				}
+			}
+		}
+	}
+}
+
+func TestGreatTextsAnswer(t *testing.T) { // P1, Limits
+	const count = 1 << 20
+	for _, piece := range []string{"a", "A", ":", "/", "?", "#", "%", "é", "\x00", "\xff", "http:"} {
+		great := strings.Repeat(piece, count)
+		for part := range 7 {
+			for _, word := range []string{"", "http", great} {
+				want, wantWord := fed(part, word, great)
+				if got, gotWord := Feed(part, word, great); got != want || gotWord != wantWord {
+					t.Errorf("P1: from %d, %.20q, %q, told often, leads to %d, %.20q, not %d, %.20q", part, word, piece, got, gotWord, want, wantWord)
+				}
+			}
+			want, wantWord := fed(part, great, "x")
+			if got, gotWord := Step(part, great, 'x'); got != want || gotWord != wantWord {
+				t.Errorf("P1: Step(%d) with a great word of %q is %d, %.20q", part, piece, got, gotWord)
+			}
+		}
+	}
+}
+
+func TestAnswersHangOnArgumentsAlone(t *testing.T) { // P3
+	texts := oddTexts()
+	tell := func() string {
+		var b strings.Builder
+		for i, s := range texts {
+			for _, part := range oddParts() {
+				next, word := Feed(part, texts[i/2], s)
+				behind, kind := Hole(next)
+				fmt.Fprintln(&b, next, word, wordsOf(part, word, s), behind, kind)
+			}
+		}
+		return b.String()
+	}
+	want := tell()
+	got := make([]string, 8)
+	var wait sync.WaitGroup
+	for i := range got {
+		wait.Go(func() { got[i] = tell() })
+	}
+	wait.Wait()
+	for _, g := range got {
+		if g != want {
+			t.Error("P3: the calls answer otherwise from run to run")
+		}
+	}
+}
